@@ -5,6 +5,7 @@ import (
 	"math"
 	"math/rand"
 	"slices"
+	"strconv"
 	"strings"
 	"testing"
 	"unicode/utf8"
@@ -245,6 +246,28 @@ func TestShow(t *testing.T) {
 		wantShow(t, 0, digits.Hex, width, "$0", api.OK)
 		wantShow(t, 0, digits.Bin, width, "%0", api.OK)
 		wantShow(t, 0, digits.Oct, width, "@0", api.OK)
+	}
+}
+
+func TestShowOfEachDigitOfHex(t *testing.T) {
+	const capitals = "0123456789ABCDEF"
+	for v := range uint64(16) {
+		digit := capitals[v : v+1]
+		wantShow(t, v, digits.Hex, 0, "$"+digit, api.OK)
+		wantShow(t, v, digits.Hex, 2, "$0"+digit, api.OK)
+		wantShow(t, v<<60|v, digits.Hex, 16, "$"+digit+strings.Repeat("0", 14)+digit, api.OK)
+	}
+	wantShow(t, 0x0123456789abcdef, digits.Hex, 16, "$"+capitals, api.OK)
+	wantShow(t, 0xfedcba9876543210, digits.Hex, 0, "$FEDCBA9876543210", api.OK)
+}
+
+// Against the library's own digits, at all sizes.
+func TestShowOfManyNumbers(t *testing.T) {
+	marks := map[int]string{digits.Dec: "", digits.Hex: "$", digits.Bin: "%", digits.Oct: "@"}
+	for _, v := range numbers() {
+		for _, kind := range kinds {
+			wantShow(t, v, kind, 1, marks[kind]+strings.ToUpper(strconv.FormatUint(v, kind)), api.OK)
+		}
 	}
 }
 
