@@ -100,6 +100,19 @@ func TestDigitOfEachByte(t *testing.T) {
 	}
 }
 
+func TestDigitIsTheTableAndItsRule(t *testing.T) {
+	words, rule := digits.Words(), digits.Rule()
+	if len(words) != 256 || !slices.Equal(words, rule) {
+		t.Fatalf("Words is %v, Rule is %v", words, rule)
+	}
+	for c := range 256 {
+		got := digits.Digit(byte(c))
+		if got != int(int32(words[c])) || got != int(int32(rule[c])) {
+			t.Errorf("Digit(%q) = %d; the table has %d, its rule %d", byte(c), got, int32(words[c]), int32(rule[c]))
+		}
+	}
+}
+
 func TestTablesAreNew(t *testing.T) {
 	for what, f := range map[string]func() []uint32{"Words": digits.Words, "Rule": digits.Rule} {
 		first := f()
