@@ -296,8 +296,14 @@ func TestTheTable(t *testing.T) {
 	wantWord(t, "word 0xff", rule[0xff], 0x0081ff08)
 }
 
-func TestTheTableIsWhatTheCallsTell(t *testing.T) {
-	for v, word := range bits.Words() {
+func TestTheTableAndItsRuleAreWhatTheCallsTell(t *testing.T) {
+	wantTold(t, bits.Words())
+	wantTold(t, bits.Rule())
+}
+
+func wantTold(t *testing.T, table []uint32) {
+	t.Helper()
+	for v, word := range table {
 		b := byte(v)
 		wantInt(t, "Ones", bits.Ones(b), int(word&15))
 		wantInt(t, "Parity", bits.Parity(b), int(word>>4&1))
